@@ -18,7 +18,7 @@ type Directory struct {
 
 // Read reads the manifest, and all segments that it lists.
 func Read(d *api.Disk) (Directory, error) {
-	m, err := readManifest(d)
+	m, err := ReadManifest(d)
 	if err != nil {
 		return Directory{}, err
 	}
@@ -30,7 +30,8 @@ func Read(d *api.Disk) (Directory, error) {
 	return Directory{Manifest: m, Segments: segments, Records: records}, nil
 }
 
-func readManifest(d *api.Disk) (api.Manifest, error) {
+// ReadManifest reads the manifest alone.
+func ReadManifest(d *api.Disk) (api.Manifest, error) {
 	if !slices.Contains(d.List(), ManifestName) {
 		return api.Manifest{}, api.ErrNothing
 	}
@@ -47,8 +48,8 @@ func readSegments(d *api.Disk, ids []int) ([][]byte, error) {
 		return nil, err
 	}
 	files := make([][]byte, len(ids))
-	for i, id := range ids {
-		b, err := readAll(d, SegmentName(id))
+	for i, name := range SegmentNames(ids) {
+		b, err := readAll(d, name)
 		if err != nil {
 			return nil, err
 		}
@@ -60,8 +61,8 @@ func readSegments(d *api.Disk, ids []int) ([][]byte, error) {
 // findSegments is asked ahead of all reading, so that a missing segment is told whether or not another one can be read.
 func findSegments(d *api.Disk, ids []int) error {
 	names := d.List()
-	for _, id := range ids {
-		if name := SegmentName(id); !slices.Contains(names, name) {
+	for _, name := range SegmentNames(ids) {
+		if !slices.Contains(names, name) {
 			return &api.FileError{Name: name, Err: api.ErrSegment}
 		}
 	}

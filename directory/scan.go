@@ -21,10 +21,17 @@ type Entry struct {
 	Record api.Record
 }
 
-// Segment is a segment's records, one behind the other.
+// Segment is a segment's records, one behind the other, and the bytes of its file.
 type Segment struct {
 	ID      int
 	Entries []Entry
+	bytes   []byte
+}
+
+// RecordBytes hands out the bytes of one of the segment's records. They have no spare room, so that whoever appends to them does not write over the record behind.
+func (s Segment) RecordBytes(e Entry) []byte {
+	end := e.Place.At + e.Size
+	return s.bytes[e.Place.At:end:end]
 }
 
 // scan looks for the records of all segments at once, and tells how many there are in all. The bytes of segment ids[i] are files[i].
@@ -45,7 +52,7 @@ func scan(ids []int, files [][]byte) ([]Segment, int) {
 }
 
 func scanOne(id int, b []byte) Segment {
-	s := Segment{ID: id}
+	s := Segment{ID: id, bytes: b}
 	for e := range entries(id, b) {
 		s.Entries = append(s.Entries, e)
 	}

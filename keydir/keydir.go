@@ -8,6 +8,7 @@ import (
 	"keydir/codec"
 	"keydir/directory"
 	"keydir/index"
+	"keydir/merge"
 )
 
 // Encode writes a record (P3).
@@ -74,7 +75,7 @@ func (s *Store) Stats() []api.Stat { return slices.Clone(s.stats) }
 func (s *Store) Victims(percent, count int) []int { return index.Victims(s.stats, percent, count) }
 
 // Merge writes segments anew, without what is dead (P8, P9).
-func Merge(d *api.Disk, victims []int) error { return nil }
+func Merge(d *api.Disk, victims []int) error { return merge.Merge(d, victims) }
 
 // Clean removes files that belong to nothing (P10).
-func Clean(d *api.Disk) error { return nil }
+func Clean(d *api.Disk) error { return merge.Clean(d) }
