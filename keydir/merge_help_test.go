@@ -56,6 +56,16 @@ func (s snapshot) others(victims []int) []int {
 	return slices.DeleteFunc(slices.Clone(s.manifest.IDs), func(id int) bool { return slices.Contains(victims, id) })
 }
 
+// needed are the files that the manifest tells of, and hints.
+func (s snapshot) needed() map[string]string {
+	m := maps.Clone(s.files)
+	maps.DeleteFunc(m, func(name, _ string) bool {
+		listed := slices.ContainsFunc(s.manifest.IDs, func(id int) bool { return name == segmentName(id) })
+		return name != "manifest" && !listed && !hintNames.MatchString(name)
+	})
+	return m
+}
+
 // short tells records in the short form, sorted.
 func short(l []api.Record) string {
 	var out []string
@@ -102,10 +112,8 @@ func wantMerged(t *testing.T, d *api.Disk, was snapshot, victims []int) []api.Re
 		t.Errorf("%s: the Generation is %d, and was %d", why, is.manifest.Generation, was.manifest.Generation)
 	}
 	fresh := wantSameOthers(t, was, is, victims, why)
-	for name := range is.files {
-		if name != "manifest" && !hintNames.MatchString(name) && !slices.ContainsFunc(is.manifest.IDs, func(id int) bool { return name == segmentName(id) }) {
-			t.Errorf("%s: there is a file %q", why, name)
-		}
+	if needed := is.needed(); !maps.Equal(is.files, needed) {
+		t.Errorf("%s: there is %q, and no more is needed than %q", why, is.files, needed)
 	}
 	l := wantOnlyRecords(t, was, is, victims, fresh, why)
 	wantNoMoreThanNeeded(t, was, victims, l, why)
