@@ -35,6 +35,7 @@ func TestP11AgainAndAgain(t *testing.T) {
 				t.Fatalf("P11: that was: %s", strings.Join(h.story, ", "))
 			}
 		}
+		wantUsable(t, rnd, h.disk, pairsOf(t, open(t, h.disk)), strings.Join(h.story, ", "))
 	}
 }
 
@@ -56,7 +57,7 @@ func (h *history) happen() {
 	case 0:
 		h.fail(call, h.tell(name+" with failures"))
 	case 1:
-		h.crash(call, h.tell(name+" with a crash"))
+		crashWithin(h.t, h.rnd, h.disk, call, h.tell(name+" with a crash"))
 	case 2:
 		h.refuse(call, h.tell(name+" without room"))
 	case 3:
@@ -69,7 +70,7 @@ func (h *history) happen() {
 		h.done(was, victims, h.tell(name))
 	}
 	wantPairs(h.t, h.disk, was.pairs, strings.Join(h.story, ", "))
-	wantCleaned(h.t, h.disk.Copy(), strings.Join(h.story, ", "))
+	wantUsable(h.t, h.rnd, h.disk.Copy(), was.pairs, strings.Join(h.story, ", "))
 }
 
 func (h *history) fail(call func(d *api.Disk) error, why string) {
@@ -77,13 +78,6 @@ func (h *history) fail(call func(d *api.Disk) error, why string) {
 	metFailures(h.t, h.disk, call, h.rnd.IntN(50), 1+h.rnd.IntN(4), why)
 	if h.rnd.IntN(2) == 0 {
 		h.disk.Crash(uint(h.rnd.IntN(20)), uint(h.rnd.IntN(60)))
-	}
-}
-
-func (h *history) crash(call func(d *api.Disk) error, why string) {
-	h.t.Helper()
-	if n := errno(crashWithin(h.rnd, h.disk, call)); n != api.OK && n != api.ErrDisk {
-		h.t.Fatalf("P11: %s: error %d", why, n)
 	}
 }
 

@@ -41,23 +41,26 @@ func TestP11CrashesBehindCrashes(t *testing.T) {
 		for range 500 {
 			d := x.disk(t)
 			pairs := pairsOf(t, open(t, d))
-			crashWithin(rnd, d, x.call)
+			crashWithin(t, rnd, d, x.call, x.name)
 			call := keydir.Clean
 			if ids := snapshotOf(t, d).manifest.IDs; len(ids) > 0 && rnd.IntN(3) > 0 {
 				call = merging(randomVictims(rnd, ids)...)
 			}
-			crashWithin(rnd, d, call)
+			wantPairs(t, d, pairs, x.name+" with a crash")
+			crashWithin(t, rnd, d, call, x.name+" with a crash, and a call behind it")
 			wantUsable(t, rnd, d, pairs, x.name+" with two crashes")
 		}
 	}
 }
 
 // crashWithin lets a crash come at any moment within a call.
-func crashWithin(rnd *rand.Rand, d *api.Disk, call func(d *api.Disk) error) error {
+func crashWithin(t *testing.T, rnd *rand.Rand, d *api.Disk, call func(d *api.Disk) error, why string) {
+	t.Helper()
 	d.Fail(rnd.IntN(40), math.MaxInt)
-	err := call(d)
+	if n := errno(call(d)); n != api.OK && n != api.ErrDisk {
+		t.Fatalf("P11: %s: error %d", why, n)
+	}
 	d.Crash(uint(rnd.IntN(20)), uint(rnd.IntN(60)))
-	return err
 }
 
 // A manifest cannot list more; here the moments are taken at random, for there are so many of them.
